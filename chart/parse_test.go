@@ -533,6 +533,31 @@ func TestParseEdges(t *testing.T) {
 	}
 }
 
+// P4.1: there may be more ways to lay a rule, and more choices for its parts, when there are too many edges.
+func TestParseEdgesAndMore(t *testing.T) {
+	target := "vowels a\ntrait f p q\n"
+	for i := range 16 {
+		target += "class n" + strconv.Itoa(i) + "\n" + strings.Repeat("slot 0 - - f=p\nslot 0 - - f=q\n", 8)
+	}
+	for i := range 16 {
+		target += "entry x n" + strconv.Itoa(i) + "\n"
+	}
+	for _, x := range []struct {
+		name, rules, words string
+		e                  api.Errno
+	}{
+		{"two ways", "rule S 0\ncat A\ncat A\nlex x x\nlex x x\nsource =b 1 2 3 4\ntarget 1 2 3 4\n", "b a a a x x", api.ErrLimit},
+		{"two values of a feature", "rule S 0\nlex x x\nlex x x\nlex x x\nsource 1 2 3\ntarget 1 2 3\nsame 1.t.f 2.t.f\n", "x x x", api.ErrLimit},
+		{"of each two values, one way", "rule S 0\nlex x x\nlex x x\nsource 1 2\ntarget 1 2\nsame 1.t.f 2.t.f\n", "x x", api.OK}, // 2 * 128 * 128
+		{"and one more of another rule", "rule S 0\nlex x x\nlex x x\nsource 1 2\ntarget 1 2\nsame 1.t.f 2.t.f\n" + strings.Repeat("rule S 0\nsource =x =x\ntarget\n", 3), "x x", api.ErrLimit},
+	} {
+		s := system(oneForm, target, "start S\n"+x.rules+"rule A 0\nsource =a\ntarget\nrule A 0\nsource =a =a\ntarget\n")
+		if f, e := chart.Parse(s, strings.Fields(x.words)); e != x.e || (f == nil) != (e != api.OK) {
+			t.Errorf("%s: error %d", x.name, e)
+		}
+	}
+}
+
 // P4.1: choices that all fail are no edges, however many there are.
 func TestParseFailures(t *testing.T) {
 	text := "vowels a\ntrait f p q r\ntrait g p q r\ntrait h p q r\n"
