@@ -195,7 +195,7 @@ func gathered(c api.Cell, lists ...[]api.Other) []api.Other {
 	all := slices.Concat(lists...)
 	slices.SortFunc(all, func(a, b api.Other) int {
 		// Of equal ones the first is left over, which is to be an approved one.
-		return inTurn(a, b, compareOthers, backward(yes(isApproved)))
+		return inTurn(a, b, order[api.Other]{compare: compareOthers}, backward(yes(isApproved)))
 	})
 	all = slices.CompactFunc(all, func(a, b api.Other) bool { return compareOthers(a, b) == 0 })
 	return slices.DeleteFunc(all, func(x api.Other) bool { return isOwn(c, x) })

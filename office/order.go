@@ -8,10 +8,23 @@ import (
 	"truchman/docs"
 )
 
+// order tells by a function which one of two values comes first, or, if it is backward, last.
+type order[T any] struct {
+	compare  func(a, b T) int
+	backward bool
+}
+
+func (o order[T]) of(a, b T) int {
+	if o.backward {
+		return o.compare(b, a)
+	}
+	return o.compare(a, b)
+}
+
 // inTurn compares values by the first one of several orders that tells them apart.
-func inTurn[T any](a, b T, orders ...func(a, b T) int) int {
-	for _, order := range orders {
-		if n := order(a, b); n != 0 {
+func inTurn[T any](a, b T, orders ...order[T]) int {
+	for _, o := range orders {
+		if n := o.of(a, b); n != 0 {
 			return n
 		}
 	}
@@ -19,12 +32,12 @@ func inTurn[T any](a, b T, orders ...func(a, b T) int) int {
 }
 
 // by is the order of what a function tells of values.
-func by[T any, K cmp.Ordered](tell func(T) K) func(a, b T) int {
-	return func(a, b T) int { return cmp.Compare(tell(a), tell(b)) }
+func by[T any, K cmp.Ordered](tell func(T) K) order[T] {
+	return order[T]{compare: func(a, b T) int { return cmp.Compare(tell(a), tell(b)) }}
 }
 
 // yes is the order in which the values come last of which something is true.
-func yes[T any](is func(T) bool) func(a, b T) int {
+func yes[T any](is func(T) bool) order[T] {
 	return by(func(x T) int {
 		if is(x) {
 			return 1
@@ -34,8 +47,9 @@ func yes[T any](is func(T) bool) func(a, b T) int {
 }
 
 // backward is an order from its end on.
-func backward[T any](order func(a, b T) int) func(a, b T) int {
-	return func(a, b T) int { return order(b, a) }
+func backward[T any](o order[T]) order[T] {
+	o.backward = !o.backward
+	return o
 }
 
 // compareTexts compares the texts of cells, which are all of them but Lock and Others. The greater one is kept where two sessions have different ones.

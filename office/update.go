@@ -145,8 +145,8 @@ func (u update) cell(p page, segment int) api.Cell {
 }
 
 // sorted returns a list in order, equal elements once. It works in the list's own memory.
-func sorted[T comparable](l []T, order func(a, b T) int) []T {
-	slices.SortFunc(l, order)
+func sorted[T comparable](l []T, compare func(a, b T) int) []T {
+	slices.SortFunc(l, compare)
 	return slices.Compact(l)
 }
 
